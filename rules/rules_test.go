@@ -1,0 +1,117 @@
+// Package rules has no code: its tests hold the other packages' files against the rules of the language.
+package rules
+
+import (
+	"bytes"
+	"go/ast"
+	"go/format"
+	"go/parser"
+	"go/token"
+	"io/fs"
+	"os"
+	"path"
+	"slices"
+	"strconv"
+	"strings"
+	"testing"
+)
+
+// longest is how many lines a function may have.
+const longest = 60
+
+// layers are the packages from the lowest on: each stands on those ahead of it alone.
+func layers() []string {
+	return strings.Fields("api octet digest real lex tree parse check sem code compile vm dep clock race norm" +
+		" search frontier witness disk frame log store job tenant slots out line proto docket server script bench")
+}
+
+// library has the packages of the library that may be used.
+func library() []string {
+	return strings.Fields("bytes cmp container/heap errors iter maps math math/bits slices sort strconv strings" +
+		" sync sync/atomic unicode unicode/utf8")
+}
+
+// sources calls f with each Go file of the program that is no test.
+func sources(t *testing.T, f func(name string, text []byte, files *token.FileSet, file *ast.File)) {
+	root := os.DirFS("..")
+	count := 0
+	err := fs.WalkDir(root, ".", func(name string, entry fs.DirEntry, err error) error {
+		if err != nil {
+			return err
+		}
+		if entry.IsDir() && (name == "sharedtests" || strings.HasPrefix(entry.Name(), ".") && name != ".") {
+			return fs.SkipDir
+		}
+		if !strings.HasSuffix(name, ".go") || strings.HasSuffix(name, "_test.go") {
+			return nil
+		}
+		text, err := fs.ReadFile(root, name)
+		if err != nil {
+			return err
+		}
+		files := token.NewFileSet()
+		file, err := parser.ParseFile(files, name, text, parser.ParseComments)
+		if err != nil {
+			return err
+		}
+		count++
+		f(name, text, files, file)
+		return nil
+	})
+	if err != nil || count < len(layers()) {
+		t.Fatalf("%d files: %v", count, err)
+	}
+}
+
+func TestImports(t *testing.T) {
+	sources(t, func(name string, _ []byte, _ *token.FileSet, file *ast.File) {
+		for _, spec := range file.Imports {
+			imported, err := strconv.Unquote(spec.Path.Value)
+			if err != nil {
+				t.Error(name, err)
+			}
+			if own, ok := strings.CutPrefix(imported, "assize/"); ok {
+				checkBelow(t, path.Dir(name), own)
+			} else if !slices.Contains(library(), imported) {
+				t.Errorf("%s imports %s", name, imported)
+			}
+		}
+	})
+}
+
+// checkBelow fails if one layer stands on another that does not come ahead of it.
+func checkBelow(t *testing.T, layer, below string) {
+	place := slices.Index(layers(), layer)
+	if place >= 0 && slices.Index(layers(), below) >= place {
+		t.Errorf("%s stands on %s", layer, below)
+	}
+}
+
+func TestNoOrdersToTheCompiler(t *testing.T) {
+	sources(t, func(name string, _ []byte, files *token.FileSet, file *ast.File) {
+		for _, group := range file.Comments {
+			for _, line := range group.List {
+				if strings.HasPrefix(line.Text, "//go:") || strings.HasPrefix(line.Text, "// +build") {
+					t.Errorf("%s: %s", files.Position(line.Pos()), line.Text)
+				}
+			}
+		}
+	})
+}
+
+func TestLayout(t *testing.T) {
+	sources(t, func(name string, text []byte, files *token.FileSet, file *ast.File) {
+		if laid, err := format.Source(text); err != nil || !bytes.Equal(laid, text) {
+			t.Error(name, "is not laid out as by gofmt", err)
+		}
+		for _, d := range file.Decls {
+			f, ok := d.(*ast.FuncDecl)
+			if !ok {
+				continue
+			}
+			if n := files.Position(f.End()).Line - files.Position(f.Pos()).Line + 1; n > longest {
+				t.Errorf("%s: %s has %d lines", name, f.Name.Name, n)
+			}
+		}
+	})
+}
