@@ -1,4 +1,4 @@
-// Package rules has no code: its tests hold the other packages' files against the rules of the language.
+// Package rules has no code: its tests hold the other packages' files against some rules of the language: imports, layers, orders to the compiler, layout.
 package rules
 
 import (
