@@ -1,4 +1,4 @@
-// Package sample makes programs and expressions that may be, for tests: which ones, a function chooses that is handed in.
+// Package sample makes programs, codes and expressions that may be, for tests: which ones, a function chooses that is handed in.
 package sample
 
 import (
@@ -11,12 +11,12 @@ import (
 // Pick chooses a number from 0 on below n, which is at least 1.
 type Pick func(n int) int
 
-// maker makes one program's parts.
+// maker makes the parts of one program or code.
 type maker struct {
 	pick   Pick
 	p      api.Program
 	locals []api.Var
-	shared int // how many shared variables the statement may still name
+	shared int // how many shared variables the statement or node may still name
 }
 
 // Program makes a program that may be, of few threads and short blocks: many of its loops end, and most of its asserts hold.

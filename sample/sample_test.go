@@ -6,6 +6,7 @@ import (
 
 	"assize/api"
 	"assize/check"
+	"assize/code"
 	"assize/sample"
 	"assize/tree"
 )
@@ -49,6 +50,37 @@ func TestExpressionsAreOfTheirTypes(t *testing.T) {
 	for op := api.Lit; op <= api.ToReal; op++ {
 		if ops[op] == 0 {
 			t.Error("none of", op)
+		}
+	}
+}
+
+func TestCodesMayBe(t *testing.T) {
+	kinds, ops := map[int]int{}, map[api.Op]int{}
+	for seed := range int64(3000) {
+		c := sample.Code(rand.New(rand.NewSource(seed)).Intn)
+		if err := code.Check(c); err != api.OK {
+			t.Fatal(seed, err)
+		}
+		if !code.Same(c, sample.Code(rand.New(rand.NewSource(seed)).Intn)) {
+			t.Fatal(seed, "is another code")
+		}
+		for _, b := range c.Bodies {
+			for _, n := range b.Nodes {
+				kinds[n.Kind]++
+				for _, i := range n.Code {
+					ops[i.Op]++
+				}
+			}
+		}
+	}
+	for kind := api.SetLocal; kind <= api.Pass; kind++ {
+		if kinds[kind] < 300 {
+			t.Error("too few of", kind, kinds)
+		}
+	}
+	for op := api.Lit; op <= api.Fetch; op++ {
+		if isInstr := op != api.Name && op <= api.ToReal || op >= api.Load; isInstr != (ops[op] >= 100) {
+			t.Error("so many of", op, ops)
 		}
 	}
 }
