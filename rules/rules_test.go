@@ -19,13 +19,13 @@ import (
 // longest is how many lines a function may have.
 const longest = 60
 
-// layers are the packages, each with those that it stands on, as the document's map has them; by bench's three it stands on all.
+// layers are the packages, each with those that it stands on, as the document's map has them, and octet of frame, as its chapter has it; by bench's three it stands on all.
 func layers() map[string]string {
 	return map[string]string{
 		"api": "", "octet": "", "digest": "", "real": "octet", "lex": "real", "tree": "real lex", "parse": "real lex tree",
 		"check": "tree", "sem": "real tree check", "code": "octet real", "compile": "tree check code", "vm": "real code",
 		"dep": "code vm", "clock": "dep", "race": "dep clock", "norm": "dep clock", "search": "vm dep clock",
-		"frontier": "octet code search", "witness": "octet sem vm search", "disk": "", "frame": "disk",
+		"frontier": "octet code search", "witness": "octet sem vm search", "disk": "", "frame": "octet disk",
 		"log": "disk frame", "store": "disk frame log", "job": "octet search frontier witness", "tenant": "digest",
 		"slots": "", "out": "", "line": "octet", "proto": "octet real line",
 		"docket": "parse check compile store job proto", "server": "tenant slots out line proto docket",
